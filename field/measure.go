@@ -1,10 +1,12 @@
 package field
 
 import (
-	"strings"
+	"sort"
+	"strconv"
 
 	"stadion/api"
 	"stadion/mark"
+	"stadion/natural"
 )
 
 // farthest is above the distance of a landing from anything.
@@ -24,18 +26,25 @@ func Throw(centre, landing int, tangent api.Rat, radius int) (int, api.Errno) {
 		return 0, e
 	}
 	p, q := squares(tangent)
-	num := q.times(square(centre - landing)).plus(p.times(square(centre + landing)))
-	return max(rootOfQuotient(num, q.plus(p), farthest)-radius, 0), api.OK
+	num := q.Times(square(centre - landing)).Plus(p.Times(square(centre + landing)))
+	return max(rootOfQuotient(num, q.Plus(p), farthest)-radius, 0), api.OK
 }
 
 // squares returns the squares of the numerator and of the denominator of a number that is not negative.
-func squares(x api.Rat) (natural, natural) {
-	num, den, found := strings.Cut(string(x), "/")
-	if !found {
-		den = "1"
-	}
-	p, q := naturalOf(num), naturalOf(den)
-	return p.times(p), q.times(q)
+func squares(x api.Rat) (natural.Number, natural.Number) {
+	p, q := natural.Fraction(x)
+	return p.Times(p), q.Times(q)
+}
+
+// square returns the square of an integer.
+func square(n int) natural.Number {
+	a := natural.Of(strconv.Itoa(max(n, -n)))
+	return a.Times(a)
+}
+
+// rootOfQuotient returns the integer part of the root of a quotient, if it is below a bound.
+func rootOfQuotient(num, den natural.Number, bound int) int {
+	return sort.Search(bound, func(root int) bool { return square(root + 1).Times(den).IsAbove(num) })
 }
 
 // Leap returns the length of a jump from a board.
@@ -46,7 +55,7 @@ func Leap(a, b, landing [2]int) (int, api.Errno) {
 	}
 	x, y := b[0]-a[0], b[1]-a[1]
 	area := x*(landing[1]-a[1]) - y*(landing[0]-a[0])
-	return rootOfQuotient(square(area), square(x).plus(square(y)), farthest), api.OK
+	return rootOfQuotient(square(area), square(x).Plus(square(y)), farthest), api.OK
 }
 
 // InSector reports whether a landing is between the lines of a sector.
